@@ -4,6 +4,7 @@ import (
 	"unicode/utf8"
 
 	"vellum/api"
+	"vellum/lit"
 )
 
 // Cast is a value as one of another kind.
@@ -34,7 +35,7 @@ func castTo(v api.Value, kind int) (api.Value, bool) {
 	case api.KindText:
 		return toText(v)
 	case api.KindBytes:
-		return bytesOf(v.S), v.Kind == api.KindText
+		return lit.Bytes(v.S), v.Kind == api.KindText
 	}
 	return api.Value{}, false
 }
@@ -42,7 +43,7 @@ func castTo(v api.Value, kind int) (api.Value, bool) {
 func toBool(v api.Value) (api.Value, bool) {
 	switch v.Kind {
 	case api.KindInt:
-		return boolOf(v.N == 1), v.N == 0 || v.N == 1
+		return lit.Bool(v.N == 1), v.N == 0 || v.N == 1
 	case api.KindText:
 		return parsedAs(v.S, api.KindBool)
 	}
@@ -52,7 +53,7 @@ func toBool(v api.Value) (api.Value, bool) {
 func toInt(v api.Value) (api.Value, bool) {
 	switch v.Kind {
 	case api.KindBool:
-		return intOf(v.N), true
+		return lit.Int(v.N), true
 	case api.KindFloat:
 		return wholeOf(v.F)
 	case api.KindText:
@@ -67,16 +68,16 @@ func wholeOf(f float64) (api.Value, bool) {
 		return api.Value{}, false
 	}
 	n := int64(f)
-	return intOf(n), float64(n) == f
+	return lit.Int(n), float64(n) == f
 }
 
 func toFloat(v api.Value) (api.Value, bool) {
 	switch v.Kind {
 	case api.KindBool, api.KindInt:
-		return floatOf(float64(v.N)), true
+		return lit.Float(float64(v.N)), true
 	case api.KindText:
 		if n, ok := parsedAs(v.S, api.KindInt); ok {
-			return floatOf(float64(n.N)), true
+			return lit.Float(float64(n.N)), true
 		}
 		return parsedAs(v.S, api.KindFloat)
 	}
@@ -85,9 +86,9 @@ func toFloat(v api.Value) (api.Value, bool) {
 
 func toText(v api.Value) (api.Value, bool) {
 	if v.Kind == api.KindBytes {
-		return textOf(v.S), utf8.ValidString(v.S)
+		return lit.Text(v.S), utf8.ValidString(v.S)
 	}
-	return textOf(textFrom(v)), true
+	return lit.Text(textFrom(v)), true
 }
 
 func parsedAs(s string, kind int) (api.Value, bool) {

@@ -6,6 +6,7 @@ import (
 	"testing"
 
 	"vellum/api"
+	"vellum/lit"
 	"vellum/value"
 )
 
@@ -17,7 +18,7 @@ func TestCheckGood(t *testing.T) {
 		}
 	}
 	full := strings.Repeat("a", api.MaxRow)
-	for _, v := range []api.Value{text(full), raw(full), raw(full[1:] + "\xff")} {
+	for _, v := range []api.Value{lit.Text(full), lit.Bytes(full), lit.Bytes(full[1:] + "\xff")} {
 		if e := value.Check(v); e != api.OK {
 			t.Errorf("Check of MaxRow bytes = %d, want OK", e)
 		}
@@ -63,10 +64,10 @@ func TestPlain(t *testing.T) {
 	for _, v := range good() {
 		want := v
 		if v.Kind == api.KindFloat && v.F == 0 {
-			want = fromBits(0)
+			want = lit.Bits(0)
 		}
 		if v.Kind == api.KindFloat && v.F != v.F {
-			want = fromBits(plainNaN)
+			want = lit.Bits(plainNaN)
 		}
 		if got := value.Plain(v); !identical(got, want) {
 			t.Errorf("Plain(%v) = %v, want %v", shown(v), shown(got), shown(want))

@@ -8,6 +8,7 @@ import (
 	"strings"
 
 	"vellum/api"
+	"vellum/lit"
 )
 
 const (
@@ -18,14 +19,6 @@ const (
 	signalNaN    = 0x7FF0000000000001
 	fullNaN      = 0xFFFFFFFFFFFFFFFF
 )
-
-func null() api.Value             { return api.Value{} }
-func boolean(n int64) api.Value   { return api.Value{Kind: api.KindBool, N: n} }
-func whole(n int64) api.Value     { return api.Value{Kind: api.KindInt, N: n} }
-func float(f float64) api.Value   { return api.Value{Kind: api.KindFloat, F: f} }
-func fromBits(b uint64) api.Value { return float(math.Float64frombits(b)) }
-func text(s string) api.Value     { return api.Value{Kind: api.KindText, S: s} }
-func raw(s string) api.Value      { return api.Value{Kind: api.KindBytes, S: s} }
 
 // shown is a value that prints with its S cut short.
 type shown api.Value
@@ -41,20 +34,20 @@ func identical(a, b api.Value) bool {
 
 // good is values that may be.
 func good() []api.Value {
-	values := []api.Value{null(), boolean(0), boolean(1)}
+	values := []api.Value{lit.Null(), lit.Bool(false), lit.Bool(true)}
 	for _, n := range []int64{math.MinInt64, math.MinInt64 + 1, -1<<53 - 1, -1 << 53, -2, -1, 0, 1, 2, 5, 10, 1 << 53, 1<<53 + 1, 1<<53 + 2, math.MaxInt64 - 1, math.MaxInt64} {
-		values = append(values, whole(n))
+		values = append(values, lit.Int(n))
 	}
 	for _, f := range []float64{math.Inf(-1), -math.MaxFloat64, -1 << 63, -1 << 53, -2.5, -1, -math.SmallestNonzeroFloat64, 0, math.SmallestNonzeroFloat64, 0x1p-1022, 0.1, 0.5, 1, 1.5, 2, 1 << 53, 1<<53 + 2, 1 << 62, 1 << 63, 1 << 64, 1e22, 1e23, math.MaxFloat64, math.Inf(1)} {
-		values = append(values, float(f))
+		values = append(values, lit.Float(f))
 	}
 	for _, b := range []uint64{negativeZero, plainNaN, quietNaN, signedNaN, signalNaN, fullNaN} {
-		values = append(values, fromBits(b))
+		values = append(values, lit.Bits(b))
 	}
 	for _, s := range []string{"", "\x00", "'", "''", "a", "ab", "b", "it's", "null", "true", "5", "0.5", "é", "\U0010FFFF", strings.Repeat("'", api.MaxRow), strings.Repeat("é", api.MaxRow/2)} {
-		values = append(values, text(s), raw(s))
+		values = append(values, lit.Text(s), lit.Bytes(s))
 	}
-	return append(values, raw("\xff"), raw("a\xff"), raw("\xc3"), raw("\xed\xa0\x80"))
+	return append(values, lit.Bytes("\xff"), lit.Bytes("a\xff"), lit.Bytes("\xc3"), lit.Bytes("\xed\xa0\x80"))
 }
 
 // wrong is values that may not be, by the error that Check has for them.
@@ -65,14 +58,14 @@ func wrong() map[api.Errno][]api.Value {
 		api.ErrValue: {
 			{Kind: -1}, {Kind: 6}, {Kind: math.MinInt}, {Kind: math.MaxInt}, {Kind: 6, S: long},
 			{N: 1}, {N: -1}, {F: 1}, {F: minus}, {F: math.NaN()}, {S: "a"}, {S: long},
-			boolean(2), boolean(-1), boolean(math.MinInt64), {Kind: api.KindBool, F: minus}, {Kind: api.KindBool, S: "t"},
+			{Kind: api.KindBool, N: 2}, {Kind: api.KindBool, N: -1}, {Kind: api.KindBool, N: math.MinInt64}, {Kind: api.KindBool, F: minus}, {Kind: api.KindBool, S: "t"},
 			{Kind: api.KindInt, F: minus}, {Kind: api.KindInt, F: math.Inf(1)}, {Kind: api.KindInt, S: "1"}, {Kind: api.KindInt, S: long},
 			{Kind: api.KindFloat, N: 1}, {Kind: api.KindFloat, F: math.NaN(), N: -1}, {Kind: api.KindFloat, S: "1"},
 			{Kind: api.KindText, N: 1}, {Kind: api.KindText, F: minus}, {Kind: api.KindText, S: long, N: 1},
-			text("\xff"), text("a\xc3"), text("\xed\xa0\x80"), text("\xc0\x80"), text("\xf4\x90\x80\x80"), text(long + "\xff"),
+			lit.Text("\xff"), lit.Text("a\xc3"), lit.Text("\xed\xa0\x80"), lit.Text("\xc0\x80"), lit.Text("\xf4\x90\x80\x80"), lit.Text(long + "\xff"),
 			{Kind: api.KindBytes, N: 1}, {Kind: api.KindBytes, F: minus}, {Kind: api.KindBytes, S: long, N: 1},
 		},
-		api.ErrLong: {text(long), raw(long), raw(long + "\xff"), text(strings.Repeat("é", api.MaxRow/2) + "a")},
+		api.ErrLong: {lit.Text(long), lit.Bytes(long), lit.Bytes(long + "\xff"), lit.Text(strings.Repeat("é", api.MaxRow/2) + "a")},
 	}
 }
 

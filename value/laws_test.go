@@ -4,6 +4,7 @@ import (
 	"testing"
 
 	"vellum/api"
+	"vellum/lit"
 	"vellum/value"
 )
 
@@ -33,7 +34,7 @@ func TestOrderIsTotal(t *testing.T) {
 func TestParseOfText(t *testing.T) {
 	values := good()
 	for _, f := range floats(10000) {
-		values = append(values, float(f))
+		values = append(values, lit.Float(f))
 	}
 	for _, v := range values {
 		want := v

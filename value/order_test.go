@@ -7,6 +7,7 @@ import (
 	"testing"
 
 	"vellum/api"
+	"vellum/lit"
 	"vellum/value"
 )
 
@@ -15,42 +16,42 @@ func TestCompare(t *testing.T) {
 	places := [][]api.Value{
 		{{Kind: math.MinInt, S: "z"}, {Kind: math.MinInt}},
 		{{Kind: -1, N: 5}, {Kind: -1}, {Kind: -1, F: math.NaN()}},
-		{null(), {N: 9}, {F: 4}, {S: "x"}},
-		{boolean(-7)},
-		{boolean(0), {Kind: api.KindBool, F: 3, S: "x"}},
-		{boolean(1)},
-		{boolean(2)},
-		{whole(math.MinInt64)},
-		{whole(-1)},
-		{whole(0), {Kind: api.KindInt, S: "x"}, {Kind: api.KindInt, F: math.NaN()}},
-		{whole(1 << 53)},
-		{whole(1<<53 + 1)},
-		{whole(math.MaxInt64)},
-		{float(math.Inf(-1))},
-		{float(-math.MaxFloat64)},
-		{float(-1)},
-		{float(-math.SmallestNonzeroFloat64)},
-		{float(0), fromBits(negativeZero), {Kind: api.KindFloat, N: 5, S: "x"}},
-		{float(math.SmallestNonzeroFloat64)},
-		{float(1)},
-		{float(math.MaxFloat64)},
-		{float(math.Inf(1))},
-		{fromBits(plainNaN), fromBits(quietNaN), fromBits(signedNaN), fromBits(signalNaN), fromBits(fullNaN)},
-		{text("")},
-		{text("\x00")},
-		{text("B"), {Kind: api.KindText, S: "B", N: 3, F: 2}},
-		{text("a")},
-		{text("a\x00")},
-		{text("aa")},
-		{text("é")},
-		{text("\uffff")},
-		{text("\U00010000")},
-		{text("\xff")},
-		{raw("")},
-		{raw("a")},
-		{raw("a\x00")},
-		{raw("b")},
-		{raw("\xff")},
+		{lit.Null(), {N: 9}, {F: 4}, {S: "x"}},
+		{{Kind: api.KindBool, N: -7}},
+		{lit.Bool(false), {Kind: api.KindBool, F: 3, S: "x"}},
+		{lit.Bool(true)},
+		{{Kind: api.KindBool, N: 2}},
+		{lit.Int(math.MinInt64)},
+		{lit.Int(-1)},
+		{lit.Int(0), {Kind: api.KindInt, S: "x"}, {Kind: api.KindInt, F: math.NaN()}},
+		{lit.Int(1 << 53)},
+		{lit.Int(1<<53 + 1)},
+		{lit.Int(math.MaxInt64)},
+		{lit.Float(math.Inf(-1))},
+		{lit.Float(-math.MaxFloat64)},
+		{lit.Float(-1)},
+		{lit.Float(-math.SmallestNonzeroFloat64)},
+		{lit.Float(0), lit.Bits(negativeZero), {Kind: api.KindFloat, N: 5, S: "x"}},
+		{lit.Float(math.SmallestNonzeroFloat64)},
+		{lit.Float(1)},
+		{lit.Float(math.MaxFloat64)},
+		{lit.Float(math.Inf(1))},
+		{lit.Bits(plainNaN), lit.Bits(quietNaN), lit.Bits(signedNaN), lit.Bits(signalNaN), lit.Bits(fullNaN)},
+		{lit.Text("")},
+		{lit.Text("\x00")},
+		{lit.Text("B"), {Kind: api.KindText, S: "B", N: 3, F: 2}},
+		{lit.Text("a")},
+		{lit.Text("a\x00")},
+		{lit.Text("aa")},
+		{lit.Text("é")},
+		{lit.Text("\uffff")},
+		{lit.Text("\U00010000")},
+		{lit.Text("\xff")},
+		{lit.Bytes("")},
+		{lit.Bytes("a")},
+		{lit.Bytes("a\x00")},
+		{lit.Bytes("b")},
+		{lit.Bytes("\xff")},
 		{{Kind: 6}, {Kind: 6, N: 1}, {Kind: 6, S: "a"}},
 		{{Kind: math.MaxInt}, {Kind: math.MaxInt, F: 1}},
 	}
@@ -76,35 +77,35 @@ func sign(n int) int {
 func TestNumbers(t *testing.T) {
 	below := math.Nextafter(1<<63, 0)
 	places := [][]api.Value{
-		{float(math.Inf(-1))},
-		{float(-math.MaxFloat64)},
-		{float(math.Nextafter(-1<<63, math.Inf(-1)))},
-		{whole(math.MinInt64), float(-1 << 63)},
-		{whole(math.MinInt64 + 1)},
-		{whole(-1<<53 - 1)},
-		{whole(-1 << 53), float(-1 << 53)},
-		{whole(-3)},
-		{float(-2.5)},
-		{whole(-2), float(-2)},
-		{whole(-1), float(-1)},
-		{float(-0.5)},
-		{float(-math.SmallestNonzeroFloat64)},
-		{whole(0), float(0), fromBits(negativeZero)},
-		{float(math.SmallestNonzeroFloat64)},
-		{float(0.5)},
-		{whole(1), float(1)},
-		{float(1.5)},
-		{whole(2), float(2)},
-		{whole(1 << 53), float(1 << 53)},
-		{whole(1<<53 + 1)},
-		{whole(1<<53 + 2), float(1<<53 + 2)},
-		{whole(1<<63 - 1024), float(below)},
-		{whole(math.MaxInt64 - 1)},
-		{whole(math.MaxInt64)},
-		{float(1 << 63)},
-		{float(math.MaxFloat64)},
-		{float(math.Inf(1))},
-		{fromBits(plainNaN), fromBits(quietNaN), fromBits(signedNaN), fromBits(signalNaN), fromBits(fullNaN)},
+		{lit.Float(math.Inf(-1))},
+		{lit.Float(-math.MaxFloat64)},
+		{lit.Float(math.Nextafter(-1<<63, math.Inf(-1)))},
+		{lit.Int(math.MinInt64), lit.Float(-1 << 63)},
+		{lit.Int(math.MinInt64 + 1)},
+		{lit.Int(-1<<53 - 1)},
+		{lit.Int(-1 << 53), lit.Float(-1 << 53)},
+		{lit.Int(-3)},
+		{lit.Float(-2.5)},
+		{lit.Int(-2), lit.Float(-2)},
+		{lit.Int(-1), lit.Float(-1)},
+		{lit.Float(-0.5)},
+		{lit.Float(-math.SmallestNonzeroFloat64)},
+		{lit.Int(0), lit.Float(0), lit.Bits(negativeZero)},
+		{lit.Float(math.SmallestNonzeroFloat64)},
+		{lit.Float(0.5)},
+		{lit.Int(1), lit.Float(1)},
+		{lit.Float(1.5)},
+		{lit.Int(2), lit.Float(2)},
+		{lit.Int(1 << 53), lit.Float(1 << 53)},
+		{lit.Int(1<<53 + 1)},
+		{lit.Int(1<<53 + 2), lit.Float(1<<53 + 2)},
+		{lit.Int(1<<63 - 1024), lit.Float(below)},
+		{lit.Int(math.MaxInt64 - 1)},
+		{lit.Int(math.MaxInt64)},
+		{lit.Float(1 << 63)},
+		{lit.Float(math.MaxFloat64)},
+		{lit.Float(math.Inf(1))},
+		{lit.Bits(plainNaN), lit.Bits(quietNaN), lit.Bits(signedNaN), lit.Bits(signalNaN), lit.Bits(fullNaN)},
 	}
 	for i, from := range places {
 		for j, to := range places {
@@ -128,10 +129,10 @@ func TestNumbersExact(t *testing.T) {
 		near := float64(v.N)
 		for _, f := range []float64{near, math.Nextafter(near, math.Inf(1)), math.Nextafter(near, math.Inf(-1)), near + 0.5, near - 0.5} {
 			want := new(big.Rat).SetInt64(v.N).Cmp(new(big.Rat).SetFloat64(f))
-			if c, ok := value.Numbers(v, float(f)); c != want || !ok {
+			if c, ok := value.Numbers(v, lit.Float(f)); c != want || !ok {
 				t.Errorf("Numbers(%d, %v) = %d, %v, want %d, true", v.N, f, c, ok, want)
 			}
-			if c, ok := value.Numbers(float(f), v); c != -want || !ok {
+			if c, ok := value.Numbers(lit.Float(f), v); c != -want || !ok {
 				t.Errorf("Numbers(%v, %d) = %d, %v, want %d, true", f, v.N, c, ok, -want)
 			}
 		}
@@ -140,9 +141,9 @@ func TestNumbersExact(t *testing.T) {
 
 // Va2: what is no number on either side.
 func TestNumbersOfOthers(t *testing.T) {
-	others := []api.Value{null(), boolean(1), text("1"), raw("1"), {Kind: -1}, {Kind: 6, N: 1}}
+	others := []api.Value{lit.Null(), lit.Bool(true), lit.Text("1"), lit.Bytes("1"), {Kind: -1}, {Kind: 6, N: 1}}
 	for _, o := range others {
-		for _, n := range append(slices.Clone(others), whole(1), float(1), float(math.NaN())) {
+		for _, n := range append(slices.Clone(others), lit.Int(1), lit.Float(1), lit.Float(math.NaN())) {
 			if c, ok := value.Numbers(o, n); c != 0 || ok {
 				t.Errorf("Numbers(%v, %v) = %d, %v, want 0, false", shown(o), shown(n), c, ok)
 			}

@@ -5,6 +5,7 @@ import (
 	"strings"
 
 	"vellum/api"
+	"vellum/lit"
 )
 
 // Parse is the value of a text.
@@ -24,21 +25,21 @@ func literal(s string) (api.Value, bool) {
 	case nullText:
 		return api.Value{}, true
 	case trueText, falseText:
-		return boolOf(s == trueText), true
+		return lit.Bool(s == trueText), true
 	case nanText:
-		return floatOf(plainNaN()), true
+		return lit.Float(plainNaN()), true
 	case infinityText:
-		return floatOf(infinity()), true
+		return lit.Float(infinity()), true
 	case "-" + infinityText:
-		return floatOf(withSign(infinity())), true
+		return lit.Float(withSign(infinity())), true
 	}
 	if body, ok := between(s, quote); ok {
 		text, ok := unquoted(body)
-		return textOf(text), ok
+		return lit.Text(text), ok
 	}
 	if body, ok := between(s, bytesQuote); ok {
 		bytes, ok := unhexed(body)
-		return bytesOf(bytes), ok
+		return lit.Bytes(bytes), ok
 	}
 	return number(s)
 }
@@ -92,7 +93,7 @@ func number(s string) (api.Value, bool) {
 	}
 	if rest == "" {
 		n, err := strconv.ParseInt(s, 10, 64)
-		return intOf(n), err == nil && s != "-0"
+		return lit.Int(n), err == nil && s != "-0"
 	}
 	fraction, rest, ok := fractionOf(rest)
 	if !ok {
@@ -106,7 +107,7 @@ func number(s string) (api.Value, bool) {
 	if signed {
 		f = withSign(f)
 	}
-	return floatOf(f), ok
+	return lit.Float(f), ok
 }
 
 func leadingDigits(s string) (digits, rest string) {

@@ -9,6 +9,7 @@ import (
 	"testing"
 
 	"vellum/api"
+	"vellum/lit"
 	"vellum/value"
 )
 
@@ -21,39 +22,39 @@ func checkParse(t *testing.T, s string, want api.Value) {
 
 func checkNoParse(t *testing.T, s string, want api.Errno) {
 	t.Helper()
-	if v, e := value.Parse(s); e != want || !identical(v, null()) {
+	if v, e := value.Parse(s); e != want || !identical(v, lit.Null()) {
 		t.Errorf("Parse(%.80q) = %v, %d, want %d", s, shown(v), e, want)
 	}
 }
 
 // Va6: nulls, bools and ints.
 func TestParseWords(t *testing.T) {
-	checkParse(t, "null", null())
-	checkParse(t, "true", boolean(1))
-	checkParse(t, "false", boolean(0))
-	checkParse(t, "0", whole(0))
-	checkParse(t, "-1", whole(-1))
-	checkParse(t, "10", whole(10))
-	checkParse(t, "9223372036854775807", whole(math.MaxInt64))
-	checkParse(t, "-9223372036854775808", whole(math.MinInt64))
+	checkParse(t, "null", lit.Null())
+	checkParse(t, "true", lit.Bool(true))
+	checkParse(t, "false", lit.Bool(false))
+	checkParse(t, "0", lit.Int(0))
+	checkParse(t, "-1", lit.Int(-1))
+	checkParse(t, "10", lit.Int(10))
+	checkParse(t, "9223372036854775807", lit.Int(math.MaxInt64))
+	checkParse(t, "-9223372036854775808", lit.Int(math.MinInt64))
 }
 
 // Va6: floats, also in forms that Text does not write.
 func TestParseFloats(t *testing.T) {
-	checkParse(t, "NaN", fromBits(plainNaN))
-	checkParse(t, "Infinity", float(math.Inf(1)))
-	checkParse(t, "-Infinity", float(math.Inf(-1)))
+	checkParse(t, "NaN", lit.Bits(plainNaN))
+	checkParse(t, "Infinity", lit.Float(math.Inf(1)))
+	checkParse(t, "-Infinity", lit.Float(math.Inf(-1)))
 	for s, want := range map[string]float64{
 		"0.10": 0.1, "0.0": 0, "0e0": 0, "0e99999999999999999999": 0, "0.000e-5": 0, "1e5": 1e5, "1e+5": 1e5, "1e-5": 1e-5, "1e0000000000000000000000005": 1e5, "12.50e001": 125,
 		"9007199254740993.0": 1 << 53, "9007199254740993.00000000000000000000000001": 1<<53 + 2, "9007199254740995.0": 1<<53 + 4, "1e-400": 0, "1e-99999999999999999999999": 0,
 		"2.4703282292062327e-324": 0, "2.4703282292062328e-324": math.SmallestNonzeroFloat64, "2.2250738585072011e-308": 0x1p-1022 - 0x1p-1074, "10.0": 10, "0.5": 0.5,
 		"1.7976931348623157e308": math.MaxFloat64, "1.7976931348623158e308": math.MaxFloat64, "1.797693134862315807e+308": math.MaxFloat64,
 	} {
-		checkParse(t, s, float(want))
-		checkParse(t, "-"+s, float(math.Copysign(want, -1)))
+		checkParse(t, s, lit.Float(want))
+		checkParse(t, "-"+s, lit.Float(math.Copysign(want, -1)))
 	}
-	checkParse(t, "-0.0", fromBits(negativeZero))
-	checkParse(t, "-1e-400", fromBits(negativeZero))
+	checkParse(t, "-0.0", lit.Bits(negativeZero))
+	checkParse(t, "-1e-400", lit.Bits(negativeZero))
 }
 
 // Va6: the greatest float's bound: below 2^1024 - 2^970 numbers are rounded to it, from there on to none.
@@ -62,8 +63,8 @@ func TestParseGreatest(t *testing.T) {
 	bound.Sub(bound, new(big.Int).Lsh(big.NewInt(1), 970))
 	below := new(big.Int).Sub(bound, big.NewInt(1))
 	for _, s := range []string{below.String() + ".0", below.String() + "." + strings.Repeat("9", 2000), below.String() + "e0"} {
-		checkParse(t, s, float(math.MaxFloat64))
-		checkParse(t, "-"+s, float(-math.MaxFloat64))
+		checkParse(t, s, lit.Float(math.MaxFloat64))
+		checkParse(t, "-"+s, lit.Float(-math.MaxFloat64))
 	}
 	for _, s := range []string{bound.String() + ".0", bound.String() + "e0", "1e309", "1e400", "1.8e308", "1.797693134862315808e+308", "1e99999999999999999999", "0.001e400"} {
 		checkNoParse(t, s, api.ErrLiteral)
@@ -75,17 +76,17 @@ func TestParseGreatest(t *testing.T) {
 func TestParseFarExponents(t *testing.T) {
 	for _, n := range []int{50, 1000, 9999, 10000, 99999, 100000, 200000, 262000} {
 		zeros, power := strings.Repeat("0", n), strconv.Itoa(n)
-		checkParse(t, "0."+zeros+"15e"+power, float(0.15))
-		checkParse(t, "15"+zeros+"e-"+power, float(15))
-		checkParse(t, "-15"+zeros+".5e-"+power, float(-15))
-		checkParse(t, "0."+zeros+"e"+power, float(0))
+		checkParse(t, "0."+zeros+"15e"+power, lit.Float(0.15))
+		checkParse(t, "15"+zeros+"e-"+power, lit.Float(15))
+		checkParse(t, "-15"+zeros+".5e-"+power, lit.Float(-15))
+		checkParse(t, "0."+zeros+"e"+power, lit.Float(0))
 	}
-	checkParse(t, "1"+strings.Repeat("0", api.MaxText-10)+"e-262134", float(1))
+	checkParse(t, "1"+strings.Repeat("0", api.MaxText-10)+"e-262134", lit.Float(1))
 	checkNoParse(t, "1"+strings.Repeat("0", 200000)+".0", api.ErrLiteral)
-	checkParse(t, "0."+strings.Repeat("0", 200000)+"1", float(0))
-	checkParse(t, "1e-"+strings.Repeat("9", 200000), float(0))
+	checkParse(t, "0."+strings.Repeat("0", 200000)+"1", lit.Float(0))
+	checkParse(t, "1e-"+strings.Repeat("9", 200000), lit.Float(0))
 	checkNoParse(t, "1e"+strings.Repeat("9", 200000), api.ErrLiteral)
-	checkParse(t, "1e"+strings.Repeat("0", 200000)+"2", float(100))
+	checkParse(t, "1e"+strings.Repeat("0", 200000)+"2", lit.Float(100))
 }
 
 // Va6: the nearest float, of two as near the even one, as rational numbers have it: random digits, and the middles between two floats with a little more or less.
@@ -121,22 +122,22 @@ func checkNearest(t *testing.T, s string) {
 		checkNoParse(t, s, api.ErrLiteral)
 		return
 	}
-	checkParse(t, s, float(f))
+	checkParse(t, s, lit.Float(f))
 }
 
 // Va6: texts and bytes.
 func TestParseStrings(t *testing.T) {
-	checkParse(t, "''", text(""))
-	checkParse(t, "''''", text("'"))
-	checkParse(t, "'it''s'", text("it's"))
-	checkParse(t, "'null'", text("null"))
-	checkParse(t, "'a\x00\n\\é'", text("a\x00\n\\é"))
-	checkParse(t, "x''", raw(""))
-	checkParse(t, "x'000aff27'", raw("\x00\x0a\xff'"))
+	checkParse(t, "''", lit.Text(""))
+	checkParse(t, "''''", lit.Text("'"))
+	checkParse(t, "'it''s'", lit.Text("it's"))
+	checkParse(t, "'null'", lit.Text("null"))
+	checkParse(t, "'a\x00\n\\é'", lit.Text("a\x00\n\\é"))
+	checkParse(t, "x''", lit.Bytes(""))
+	checkParse(t, "x'000aff27'", lit.Bytes("\x00\x0a\xff'"))
 	full := strings.Repeat("a", api.MaxRow)
-	checkParse(t, "'"+full+"'", text(full))
-	checkParse(t, "'"+strings.Repeat("''", api.MaxRow)+"'", text(strings.Repeat("'", api.MaxRow)))
-	checkParse(t, "x'"+strings.Repeat("61", api.MaxRow)+"'", raw(full))
+	checkParse(t, "'"+full+"'", lit.Text(full))
+	checkParse(t, "'"+strings.Repeat("''", api.MaxRow)+"'", lit.Text(strings.Repeat("'", api.MaxRow)))
+	checkParse(t, "x'"+strings.Repeat("61", api.MaxRow)+"'", lit.Bytes(full))
 	checkNoParse(t, "'"+full+"a'", api.ErrLiteral)
 	checkNoParse(t, "x'"+strings.Repeat("61", api.MaxRow+1)+"'", api.ErrLiteral)
 }
@@ -144,7 +145,7 @@ func TestParseStrings(t *testing.T) {
 // Va6: a text of MaxText bytes is read, one of one more is not, whatever it says.
 func TestParseLong(t *testing.T) {
 	zeros := strings.Repeat("0", api.MaxText-2)
-	checkParse(t, "0."+zeros, float(0))
+	checkParse(t, "0."+zeros, lit.Float(0))
 	checkNoParse(t, "0."+zeros+"0", api.ErrLong)
 	checkNoParse(t, "1."+zeros+"x", api.ErrLong)
 	checkNoParse(t, strings.Repeat("\xff", api.MaxText), api.ErrLiteral)

@@ -8,6 +8,7 @@ import (
 	"testing"
 
 	"vellum/api"
+	"vellum/lit"
 	"vellum/value"
 )
 
@@ -17,37 +18,37 @@ func TestText(t *testing.T) {
 		v    api.Value
 		want string
 	}{
-		{null(), "null"},
-		{boolean(0), "false"},
-		{boolean(1), "true"},
-		{whole(0), "0"},
-		{whole(-7), "-7"},
-		{whole(math.MinInt64), "-9223372036854775808"},
-		{whole(math.MaxInt64), "9223372036854775807"},
-		{fromBits(plainNaN), "NaN"},
-		{fromBits(signedNaN), "NaN"},
-		{fromBits(signalNaN), "NaN"},
-		{fromBits(fullNaN), "NaN"},
-		{float(math.Inf(1)), "Infinity"},
-		{float(math.Inf(-1)), "-Infinity"},
-		{float(0), "0e+00"},
-		{fromBits(negativeZero), "-0e+00"},
-		{float(0.1), "1e-01"},
-		{float(1.5), "1.5e+00"},
-		{float(-12.25), "-1.225e+01"},
-		{float(100), "1e+02"},
-		{float(1e100), "1e+100"},
-		{float(1 << 53), "9.007199254740992e+15"},
-		{float(0x1p-44), "5.684341886080802e-14"},
-		{float(1e23), "1e+23"},
-		{float(math.SmallestNonzeroFloat64), "5e-324"},
-		{float(-math.MaxFloat64), "-1.7976931348623157e+308"},
-		{text(""), "''"},
-		{text("it's"), "'it''s'"},
-		{text("''"), "''''''"},
-		{text("a\x00\n\"é"), "'a\x00\n\"é'"},
-		{raw(""), "x''"},
-		{raw("\x00\x0a\xff'"), "x'000aff27'"},
+		{lit.Null(), "null"},
+		{lit.Bool(false), "false"},
+		{lit.Bool(true), "true"},
+		{lit.Int(0), "0"},
+		{lit.Int(-7), "-7"},
+		{lit.Int(math.MinInt64), "-9223372036854775808"},
+		{lit.Int(math.MaxInt64), "9223372036854775807"},
+		{lit.Bits(plainNaN), "NaN"},
+		{lit.Bits(signedNaN), "NaN"},
+		{lit.Bits(signalNaN), "NaN"},
+		{lit.Bits(fullNaN), "NaN"},
+		{lit.Float(math.Inf(1)), "Infinity"},
+		{lit.Float(math.Inf(-1)), "-Infinity"},
+		{lit.Float(0), "0e+00"},
+		{lit.Bits(negativeZero), "-0e+00"},
+		{lit.Float(0.1), "1e-01"},
+		{lit.Float(1.5), "1.5e+00"},
+		{lit.Float(-12.25), "-1.225e+01"},
+		{lit.Float(100), "1e+02"},
+		{lit.Float(1e100), "1e+100"},
+		{lit.Float(1 << 53), "9.007199254740992e+15"},
+		{lit.Float(0x1p-44), "5.684341886080802e-14"},
+		{lit.Float(1e23), "1e+23"},
+		{lit.Float(math.SmallestNonzeroFloat64), "5e-324"},
+		{lit.Float(-math.MaxFloat64), "-1.7976931348623157e+308"},
+		{lit.Text(""), "''"},
+		{lit.Text("it's"), "'it''s'"},
+		{lit.Text("''"), "''''''"},
+		{lit.Text("a\x00\n\"é"), "'a\x00\n\"é'"},
+		{lit.Bytes(""), "x''"},
+		{lit.Bytes("\x00\x0a\xff'"), "x'000aff27'"},
 	}
 	for _, c := range texts {
 		if s, e := value.Text(c.v); s != c.want || e != api.OK {
@@ -64,14 +65,14 @@ func TestTextLong(t *testing.T) {
 		every = append(every, byte(b))
 		digits.WriteString(strconv.FormatInt(int64(b)+256, 16)[1:])
 	}
-	if s, e := value.Text(raw(string(every))); s != "x'"+digits.String()+"'" || e != api.OK {
+	if s, e := value.Text(lit.Bytes(string(every))); s != "x'"+digits.String()+"'" || e != api.OK {
 		t.Errorf("Text of all bytes = %q, %d", s, e)
 	}
 	quotes := strings.Repeat("'", api.MaxRow)
-	if s, e := value.Text(text(quotes)); s != "'"+quotes+quotes+"'" || e != api.OK {
+	if s, e := value.Text(lit.Text(quotes)); s != "'"+quotes+quotes+"'" || e != api.OK {
 		t.Errorf("Text of MaxRow apostrophes has %d bytes, %d", len(s), e)
 	}
-	if s, e := value.Text(raw(quotes)); s != "x'"+strings.Repeat("27", api.MaxRow)+"'" || e != api.OK {
+	if s, e := value.Text(lit.Bytes(quotes)); s != "x'"+strings.Repeat("27", api.MaxRow)+"'" || e != api.OK {
 		t.Errorf("Text of MaxRow bytes has %d bytes, %d", len(s), e)
 	}
 }
@@ -90,7 +91,7 @@ func TestTextWrong(t *testing.T) {
 // Va5: a float's digits are the shortest that are read back as it, and of these the nearest.
 func TestTextShortest(t *testing.T) {
 	for _, f := range floats(3000) {
-		s, e := value.Text(float(f))
+		s, e := value.Text(lit.Float(f))
 		if e != api.OK {
 			t.Fatalf("Text(%v) = %d", f, e)
 		}

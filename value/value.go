@@ -58,18 +58,3 @@ func stringMayBe(v api.Value) bool {
 	}
 	return v.S == ""
 }
-
-func boolOf(b bool) api.Value {
-	if b {
-		return api.Value{Kind: api.KindBool, N: 1}
-	}
-	return api.Value{Kind: api.KindBool}
-}
-
-func intOf(n int64) api.Value { return api.Value{Kind: api.KindInt, N: n} }
-
-func floatOf(f float64) api.Value { return api.Value{Kind: api.KindFloat, F: f} }
-
-func textOf(s string) api.Value { return api.Value{Kind: api.KindText, S: s} }
-
-func bytesOf(s string) api.Value { return api.Value{Kind: api.KindBytes, S: s} }
