@@ -37,11 +37,10 @@ func TestName(t *testing.T) {
 
 // Sc1: no word is a name, but what is a little longer or shorter than one is.
 func TestWordsAreNoNames(t *testing.T) {
-	list := strings.Fields(keptWords)
-	if len(list) != 22+33 {
-		t.Fatalf("%d words", len(list))
+	if len(kept) != 22+33 {
+		t.Fatalf("%d words", len(kept))
 	}
-	for _, s := range list {
+	for _, s := range kept {
 		if schema.Name(s) {
 			t.Errorf("Name(%q) = true, want false", s)
 		}

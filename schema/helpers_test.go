@@ -15,6 +15,8 @@ import (
 const keptWords = "and bool bytes create default false float foreign in index int is key not null or primary references table text true unique " +
 	"abort as asc at avg begin between by commit count delete desc drop from group insert into limit max min of order release rollback savepoint select set sum to update values where with"
 
+var kept = strings.Fields(keptWords)
+
 const (
 	negativeZero = 1 << 63
 	plainNaN     = 0x7FF8000000000000
@@ -122,7 +124,7 @@ func randomName(r *rand.Rand) string {
 		for len(s) < size {
 			s += string("abcdefghijklmnopqrstuvwxyz_0123456789"[r.IntN(37)])
 		}
-		if !slices.Contains(strings.Fields(keptWords), s) {
+		if !slices.Contains(kept, s) {
 			return s
 		}
 	}

@@ -71,7 +71,7 @@ func class(p string) string {
 	switch {
 	case isSign(p):
 		return p
-	case slices.Contains(strings.Fields(keptWords), p):
+	case slices.Contains(kept, p):
 		return p
 	case nameLike.MatchString(p):
 		if _, e := value.Parse(p); e == api.OK {
