@@ -1,11 +1,8 @@
 package pred
 
 import (
-	"math"
-
 	"vellum/api"
 	"vellum/lit"
-	"vellum/value"
 )
 
 type intsFunc func(a, b int64) (int64, api.Errno)
@@ -59,18 +56,4 @@ func told(n int64, err api.Errno) (api.Value, api.Errno) {
 		return api.Value{}, err
 	}
 	return lit.Int(n), api.OK
-}
-
-// rounded makes NaNs plain, since machines make them of various bits; -0 stays what it is.
-func rounded(f float64) api.Value {
-	if math.IsNaN(f) {
-		return value.Plain(lit.Float(f))
-	}
-	return lit.Float(f)
-}
-
-// floatOf is a number as a float; each number can be cast to one.
-func floatOf(v api.Value) float64 {
-	f, _ := value.Cast(v, api.KindFloat)
-	return f.F
 }

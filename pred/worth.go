@@ -3,6 +3,7 @@ package pred
 import (
 	"vellum/api"
 	"vellum/lit"
+	"vellum/num"
 	"vellum/value"
 )
 
@@ -53,7 +54,7 @@ func negated(v api.Value) (api.Value, api.Errno) {
 	case api.KindInt:
 		return told(difference(0, v.N))
 	case api.KindFloat:
-		return rounded(-v.F), api.OK
+		return num.Told(-v.F), api.OK
 	}
 	return v, api.OK
 }
@@ -118,7 +119,7 @@ func numbers(ofInts intsFunc, ofFloats func(a, b float64) float64) func(api.Valu
 		if a.Kind == api.KindInt && b.Kind == api.KindInt {
 			return told(ofInts(a.N, b.N))
 		}
-		return rounded(ofFloats(floatOf(a), floatOf(b))), api.OK
+		return num.Told(ofFloats(num.Float(a), num.Float(b))), api.OK
 	})
 }
 
